@@ -29,34 +29,31 @@ func newStep(kind int, kids ...step) step {
 
 // written returns the steps of x, a valid pattern.
 func written(x api.Rx) step {
-	switch x.Kind {
-	case api.Bytes:
+	switch {
+	case x.Kind == api.Bytes:
 		return step{kind: api.Bytes, set: x.Set}
-	case api.Cat, api.Alt:
-		return newStep(x.Kind, kidsOf(x)...)
-	case api.Rep:
-		// The Size of a valid pattern limits only copies of patterns with Bytes in them.
-		if rx.Size(x) > 0 {
-			return newStep(api.Cat, copiesOf(x)...)
-		}
+	case rx.Size(x) == 0:
+		// Without Bytes it matches the empty text alone, and no Size limits how often it is repeated.
+		return newStep(api.Empty)
+	case x.Kind == api.Rep:
+		return joined(api.Cat, copiesOf(x))
 	}
-	return newStep(api.Empty)
+	kids := kidsOf(x)
+	whole := joined(x.Kind, kids)
+	if x.Kind == api.Alt && len(kids) < len(x.Kids) {
+		whole = optional(whole)
+	}
+	return whole
 }
 
-// kidsOf returns the steps of the kids of a Cat or an Alt. Those without Bytes match the empty text
-// alone: in a Cat they are left out, in an Alt one stands for all, lest hundreds be copied.
+// kidsOf returns the steps of the kids of a Cat or an Alt, without those that match the empty text
+// alone: there may be hundreds of them, and each repetition would copy them.
 func kidsOf(x api.Rx) []step {
 	var kids []step
-	void := false
 	for _, kid := range x.Kids {
-		if rx.Size(kid) == 0 {
-			void = true
-			continue
+		if one := written(kid); one.kind != api.Empty {
+			kids = append(kids, one)
 		}
-		kids = append(kids, written(kid))
-	}
-	if void && x.Kind == api.Alt {
-		kids = append(kids, newStep(api.Empty))
 	}
 	return kids
 }
@@ -68,14 +65,47 @@ func copiesOf(x api.Rx) []step {
 	for i := range times {
 		kid := written(x.Kids[0])
 		if x.Hi == -1 && i == times-1 {
-			kid = newStep(api.Rep, kid)
+			kid = repeated(kid)
 		}
 		if i >= x.Lo {
-			kid = newStep(api.Alt, kid, newStep(api.Empty))
+			kid = optional(kid)
 		}
 		kids = append(kids, kid)
 	}
 	return kids
+}
+
+// joined returns the Cat or the Alt of the kids. What only encloses one kid is left out here, and in
+// optional and repeated: else each level of each copy would keep positions of its own.
+func joined(kind int, kids []step) step {
+	if len(kids) == 1 {
+		return kids[0]
+	}
+	return newStep(kind, kids...)
+}
+
+// optional returns a step that matches what the kid matches, and the empty text.
+func optional(kid step) step {
+	if kid.isOptional() {
+		return kid
+	}
+	return newStep(api.Alt, kid, newStep(api.Empty))
+}
+
+// repeated returns a step that matches the concatenations of one or more texts that the kid matches.
+func repeated(kid step) step {
+	if kid.isOptional() {
+		return optional(repeated(kid.kids[0]))
+	}
+	if kid.kind == api.Rep {
+		return kid
+	}
+	return newStep(api.Rep, kid)
+}
+
+// isOptional reports whether the step was made by optional, the only one to keep an Empty.
+func (p *step) isOptional() bool {
+	return p.kind == api.Alt && p.kids[1].kind == api.Empty
 }
 
 // ends returns the positions in s that the step reaches from those given, but has not returned before.
